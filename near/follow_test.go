@@ -52,7 +52,6 @@ func TestRandomOrders(t *testing.T) {
 	mix := func(l []api.Placed) { r.Shuffle(len(l), func(a, b int) { l[a], l[b] = l[b], l[a] }) }
 	for range 3000 {
 		p, placed, more := randomPod(r, "p", 2), randomPlaced(r, 6), randomPlaced(r, 4)
-		more = slices.DeleteFunc(more, func(x api.Placed) bool { return x.Pod.Name == "p" })
 		first := slices.Clone(placed)
 		mix(placed)
 		all := slices.Concat(placed, more)
@@ -201,15 +200,14 @@ func TestHandedInIsNotKept(t *testing.T) {
 	}
 }
 
-// dropAll drops each of the lists, as long as it is not of the pod's own name.
+// dropAll drops each of the lists, which are all that is placed: those of the pod's own name, too.
 func dropAll(t *testing.T, x *near.Table, p api.Pod, lists ...[]api.Placed) {
 	t.Helper()
 	for _, y := range slices.Concat(lists...) {
-		want := api.OK
-		if y.Pod.Name == p.Name {
-			want = api.ErrNone
-		}
-		does(t, "Drop", x.Drop(y), want)
+		does(t, "Drop", x.Drop(y), api.OK)
+	}
+	for _, y := range slices.Concat(lists...) {
+		does(t, "Drop once more", x.Drop(y), api.ErrNone)
 	}
 	for _, where := range labelLists() {
 		tells(t, "nothing left", x, where, near.Check(p, where, nil))

@@ -159,29 +159,31 @@ func TestDropOfHalves(t *testing.T) {
 	does(t, "b", x.Drop(b), api.OK)
 }
 
-// 8.2: one of the pod's own name changes nothing, in New, Add and Drop, alone and among others.
+// 8.2: one of the pod's own name changes nothing of what Check tells, in New, Add and Drop, alone and among others.
 func TestOwnNameInATable(t *testing.T) {
 	own, a := keeping(at("p", "x", zone("1")), app("p", "zone"), app("x", "zone")), at("a", "x", zone("2"))
 	for _, p := range []api.Pod{apartFromX(), {Name: "p", Labels: labels("app", "x")}} {
 		there := map[int]int{1: api.WhyApart}[len(p.Apart)]
 		x := near.New(p, own)
 		tells(t, "New", x, zone("1"), 0)
-		does(t, "Drop behind New", x.Drop(own), api.ErrNone)
-		does(t, "Add", x.Add(own), api.OK)
 		does(t, "Add", x.Add(own), api.OK)
 		tells(t, "Add", x, zone("1"), 0)
-		does(t, "Drop behind Add", x.Drop(own), api.ErrNone)
+		does(t, "Drop", x.Drop(own), api.OK)
 		tells(t, "Drop", x, zone("1"), 0)
+		does(t, "Drop of the last one", x.Drop(own), api.OK)
+		tells(t, "none", x, zone("1"), 0)
 		x = near.New(p, a, own, a)
 		does(t, "Add among others", x.Add(own), api.OK)
 		tells(t, "among others", x, zone("1"), 0)
 		tells(t, "among others, the others' zone", x, zone("2"), there)
-		does(t, "Drop among others", x.Drop(own), api.ErrNone)
+		does(t, "Drop among others", x.Drop(own), api.OK)
 		does(t, "Drop of p", x.Drop(api.Placed{Pod: p, Labels: zone("2")}), api.ErrNone)
 		tells(t, "behind them, the others' zone", x, zone("2"), there)
 		does(t, "Drop of another", x.Drop(a), api.OK)
 		does(t, "Drop of another", x.Drop(a), api.OK)
 		does(t, "Drop of another", x.Drop(a), api.ErrNone)
+		tells(t, "nobody else left", x, zone("2"), 0)
+		does(t, "Drop of the last one", x.Drop(own), api.OK)
 		tells(t, "nobody left", x, zone("2"), 0)
 	}
 	wants := api.Pod{Name: "p", Near: []api.Term{app("x", "zone")}}
@@ -192,8 +194,65 @@ func TestOwnNameInATable(t *testing.T) {
 	x = near.New(wants, own)
 	does(t, "Add", x.Add(own), api.OK)
 	tells(t, "the first one", x, zone("2"), 0)
-	does(t, "Drop", x.Drop(own), api.ErrNone)
+	does(t, "Drop", x.Drop(own), api.OK)
 	tells(t, "the first one still", x, zone("2"), 0)
+}
+
+// 8.2: Drop finds as many of the pod's own name as were placed, by New and by Add.
+func TestDropOfOwnName(t *testing.T) {
+	for _, p := range []api.Pod{{}, {Name: "p1"}, apartFromX(), {Name: "p", Labels: labels("app", "x"), Near: []api.Term{app("x", "zone")}}} {
+		bare := api.Placed{Pod: api.Pod{Name: p.Name}}
+		for _, own := range []api.Placed{bare, {Pod: p, Labels: zone("1")}, keeping(at(p.Name, "x", zone("2")), app("x", "zone"))} {
+			for n := range 4 {
+				handed := slices.Repeat([]api.Placed{own}, n)
+				grown := near.New(p)
+				for range n {
+					does(t, "Add", grown.Add(copied(own)), api.OK)
+				}
+				for _, x := range []*near.Table{near.New(p, handed...), grown, grown.Clone()} {
+					dropsJust(t, x, p, own, n)
+				}
+			}
+		}
+	}
+}
+
+// dropsJust drops own n times, and asks each time that it changes nothing of what Check tells; then there is none.
+func dropsJust(t *testing.T, x *near.Table, p api.Pod, own api.Placed, n int) {
+	t.Helper()
+	alone := func(what string) {
+		for _, where := range labelLists() {
+			tells(t, what, x, where, near.Check(p, where, nil))
+		}
+	}
+	elsewhere := api.Placed{Pod: own.Pod, Labels: zone("elsewhere")}
+	alone("placed")
+	for range n {
+		does(t, "Drop with other labels", x.Drop(elsewhere), api.ErrNone)
+		does(t, "Drop", x.Drop(copied(own)), api.OK)
+		alone("dropped")
+	}
+	does(t, "Drop once more", x.Drop(own), api.ErrNone)
+	does(t, "Add anew", x.Add(own), api.OK)
+	does(t, "Drop anew", x.Drop(own), api.OK)
+	does(t, "Drop anew, once more", x.Drop(own), api.ErrNone)
+	alone("none left")
+}
+
+// 8.2: a clone has what the table had of the pod's own name, and goes its own way with it.
+func TestCloneOfOwnName(t *testing.T) {
+	own := at("p", "x", zone("1"))
+	x := near.New(apartFromX(), own, own)
+	y := x.Clone()
+	does(t, "the table's Drop", x.Drop(own), api.OK)
+	does(t, "the table's Drop", x.Drop(own), api.OK)
+	does(t, "the table has none left", x.Drop(own), api.ErrNone)
+	does(t, "the clone's Drop", y.Drop(own), api.OK)
+	does(t, "the clone's Add", y.Add(own), api.OK)
+	does(t, "the table has none still", x.Drop(own), api.ErrNone)
+	does(t, "the clone's Drop", y.Drop(own), api.OK)
+	does(t, "the clone's Drop", y.Drop(own), api.OK)
+	does(t, "the clone has none left", y.Drop(own), api.ErrNone)
 }
 
 // unlike is all that differs from x in one leaf, or in one list's length or order.
@@ -259,10 +318,16 @@ func turned(v reflect.Value) bool {
 	return true
 }
 
-// 8.2: just like is like in all: each field of the pod, and the labels.
+// 8.2: just like is like in all: each field of the pod, and the labels; of the pod's own name, too.
 func TestJustLikeInAll(t *testing.T) {
 	x := full()
-	p := api.Pod{Name: "p", Near: x.Pod.Near, Apart: x.Pod.Apart, Labels: x.Pod.Labels}
+	for _, name := range []string{"p", x.Pod.Name} {
+		likeInAll(t, x, api.Pod{Name: name, Near: x.Pod.Near, Apart: x.Pod.Apart, Labels: x.Pod.Labels})
+	}
+}
+
+func likeInAll(t *testing.T, x api.Placed, p api.Pod) {
+	t.Helper()
 	others := unlike(x)
 	if len(others) < 150 {
 		t.Fatalf("%d others", len(others))
@@ -346,7 +411,7 @@ func TestRandomLikeness(t *testing.T) {
 	for range 20000 {
 		a, b := randomLike(r), randomLike(r)
 		is := reflect.DeepEqual(a, b)
-		got := near.New(api.Pod{Name: "p"}, a).Drop(b)
+		got := near.New(api.Pod{Name: oneOf(r, []string{"p", "a"})}, a).Drop(b)
 		if (got == api.OK) != is || got != api.OK && got != api.ErrNone {
 			t.Fatalf("%+v, placed %+v: %d", b, a, got)
 		}
@@ -393,9 +458,7 @@ func (u *run) step(t *testing.T, r *rand.Rand, pool []api.Placed) {
 	y := oneOf(r, pool)
 	if r.Intn(2) == 0 {
 		does(t, "Add", u.x.Add(y), api.OK)
-		if y.Pod.Name != u.p.Name {
-			u.left = append(slices.Clone(u.left), y)
-		}
+		u.left = append(slices.Clone(u.left), y)
 		return
 	}
 	k := slices.IndexFunc(u.left, func(z api.Placed) bool { return reflect.DeepEqual(z, y) })

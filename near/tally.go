@@ -90,11 +90,11 @@ func cloneAll(l []wish) []wish {
 	return out
 }
 
-// matters asks whether x counts at all: the pod itself does not.
-func (c tally) matters(x api.Placed) bool { return x.Pod.Name != c.name }
-
-// count counts x once more, or once less, wherever it is counted.
+// count counts x once more, or once less, wherever it is counted. One of the pod's own name is counted nowhere: the pod is not in its own way.
 func (c tally) count(x api.Placed, by int) {
+	if x.Pod.Name == c.name {
+		return
+	}
 	for _, w := range c.near {
 		w.count(x, by)
 	}
